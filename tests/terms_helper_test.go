@@ -2,6 +2,7 @@ package tests
 
 import (
 	"fmt"
+	"slices"
 	"strings"
 	"testing"
 
@@ -58,7 +59,7 @@ func spaced(t impl.Term) impl.Term {
 	return t
 }
 
-// show writes all fields of t, so that two terms have the same text only if they are equal.
+// show writes all fields of t.
 func show(t impl.Term) string {
 	var b strings.Builder
 	writeTerm(&b, t)
@@ -84,19 +85,11 @@ func showAll(t impl.Term) string {
 	return b.String()
 }
 
-func same(a impl.Term, b impl.Term) bool { return show(a) == show(b) }
-
-func sameTerms(a []impl.Term, b []impl.Term) bool {
-	if len(a) != len(b) {
-		return false
-	}
-	for i := range a {
-		if !same(a[i], b[i]) {
-			return false
-		}
-	}
-	return true
+func same(a impl.Term, b impl.Term) bool {
+	return a.Kind == b.Kind && a.Int == b.Int && a.Name == b.Name && sameTerms(a.Args, b.Args)
 }
+
+func sameTerms(a []impl.Term, b []impl.Term) bool { return slices.EqualFunc(a, b, same) }
 
 // brief is show for messages about large terms.
 func brief(t impl.Term) string {
