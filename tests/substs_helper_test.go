@@ -64,6 +64,15 @@ func showSubst(s []impl.Binding) string {
 	return b.String()
 }
 
+// cellsOfSubst adds the addresses of all terms of s, spare capacity included.
+func cellsOfSubst(cells map[*impl.Term]int, s []impl.Binding) {
+	whole := s[:cap(s)]
+	for i := range whole {
+		cells[&whole[i].To]++
+		cellsOf(cells, whole[i].To.Args)
+	}
+}
+
 // checkSubstsApart reports whether two of some terms and lists, or two parts
 // of one, share memory.
 func checkSubstsApart(t *testing.T, name string, terms []impl.Term, substs ...[]impl.Binding) {
@@ -73,11 +82,7 @@ func checkSubstsApart(t *testing.T, name string, terms []impl.Term, substs ...[]
 		cellsOf(cells, term.Args)
 	}
 	for _, s := range substs {
-		whole := s[:cap(s)]
-		for i := range whole {
-			cells[&whole[i].To]++
-			cellsOf(cells, whole[i].To.Args)
-		}
+		cellsOfSubst(cells, s)
 	}
 	for _, n := range cells {
 		if n > 1 {
