@@ -2,6 +2,7 @@ package tests
 
 import (
 	"fmt"
+	"maps"
 	"math"
 	"slices"
 	"strings"
@@ -184,22 +185,39 @@ func goodSubsts() map[string][]impl.Binding {
 	}
 }
 
-// badSubsts returns lists that are no substitution, each for one reason.
+// badBindings returns lists that are neither substitutions nor values, each for one reason.
+func badBindings() map[string][]impl.Binding {
+	a, x := symbol("a"), variable(0)
+	bad := map[string][]impl.Binding{
+		"variable -1":               {bind(-1, a)},
+		"variable -1 before others": {bind(-1, a), bind(0, a)},
+		"the least int":             {bind(math.MinInt, a), bind(3, a)},
+		"variable MaxVar+1":         {bind(100001, a)},
+		"MaxVar+1 behind others":    {bind(0, a), bind(100000, a), bind(100001, a)},
+		"the greatest int":          {bind(1, a), bind(math.MaxInt, x)},
+		"a variable twice":          {bind(1, a), bind(1, a)},
+		"a variable with two terms": {bind(1, a), bind(1, x)},
+		"the last variable twice":   {bind(0, a), bind(1, a), bind(2, a), bind(2, a)},
+		"descending":                {bind(2, a), bind(1, a)},
+		"descending at the end":     {bind(1, a), bind(3, a), bind(2, a)},
+		"descending at the start":   {bind(3, a), bind(1, a), bind(4, a)},
+		"MaxBindings and one more":  manyBindings(1, 401, x),
+		"very many bindings":        manyBindings(0, 5000, a),
+		"MaxBindings, one twice":    slices.Concat(manyBindings(0, 399, a), manyBindings(398, 1, a)),
+	}
+	for name, term := range badTerms() {
+		bad[name+" alone"] = substOf(bind(1, term))
+		bad[name+" first"] = substOf(bind(1, term), bind(2, a), bind(3, x))
+		bad[name+" between"] = substOf(bind(1, a), bind(2, term), bind(3, x))
+		bad[name+" last"] = substOf(bind(1, a), bind(2, x), bind(3, term))
+	}
+	return bad
+}
+
+// badSubsts has lists that are values too.
 func badSubsts() map[string][]impl.Binding {
 	a, x, y, z := symbol("a"), variable(0), variable(1), variable(2)
 	bad := map[string][]impl.Binding{
-		"variable -1":                {bind(-1, a)},
-		"variable -1 before others":  {bind(-1, a), bind(0, a)},
-		"the least int":              {bind(math.MinInt, a), bind(3, a)},
-		"variable MaxVar+1":          {bind(100001, a)},
-		"MaxVar+1 behind others":     {bind(0, a), bind(100000, a), bind(100001, a)},
-		"the greatest int":           {bind(1, a), bind(math.MaxInt, x)},
-		"a variable twice":           {bind(1, a), bind(1, a)},
-		"a variable with two terms":  {bind(1, a), bind(1, x)},
-		"the last variable twice":    {bind(0, a), bind(1, a), bind(2, a), bind(2, a)},
-		"descending":                 {bind(2, a), bind(1, a)},
-		"descending at the end":      {bind(1, a), bind(3, a), bind(2, a)},
-		"descending at the start":    {bind(3, a), bind(1, a), bind(4, a)},
 		"the variable itself":        {bind(1, y)},
 		"variable 0 itself":          {bind(0, x)},
 		"the greatest itself":        {bind(100000, variable(100000))},
@@ -219,15 +237,7 @@ func badSubsts() map[string][]impl.Binding {
 		"bound deep under heads":     {bind(1, a), bind(2, pairs(2499, true, a, y))},
 		"itself deep inside":         {bind(1, pairs(1000, true, a, pairs(1000, false, x, y)))},
 		"each other":                 {bind(1, pair(z, a)), bind(2, pair(y, a))},
-		"MaxBindings and one more":   manyBindings(1, 401, x),
-		"very many bindings":         manyBindings(0, 5000, a),
-		"MaxBindings, one twice":     slices.Concat(manyBindings(0, 399, a), manyBindings(398, 1, a)),
 	}
-	for name, term := range badTerms() {
-		bad[name+" alone"] = substOf(bind(1, term))
-		bad[name+" first"] = substOf(bind(1, term), bind(2, a), bind(3, x))
-		bad[name+" between"] = substOf(bind(1, a), bind(2, term), bind(3, x))
-		bad[name+" last"] = substOf(bind(1, a), bind(2, x), bind(3, term))
-	}
+	maps.Copy(bad, badBindings())
 	return bad
 }
