@@ -87,23 +87,34 @@ func eachLeaf(size int, l []impl.Term) []impl.Term {
 	return all
 }
 
-// With one element there is one instance, as long as there are values: these
-// have at most MaxBindings bindings.
+// With one element there is one instance, for any number of variables: chapter
+// 9 limits only their choices and the nodes of the instances, while matching
+// has at most MaxBindings values.
 func TestGroundInstancesForOneValue(t *testing.T) {
 	a := symbol("a")
-	for _, n := range []int{0, 1, 2, 9, 10, 63, 64, 65, 399, 400} {
-		atoms := slices.Repeat([]impl.Term{a}, n)
-		checkInstances(t, occurring(0, n), []impl.Term{a}, []impl.Term{listOf(atoms...)})
-		checkInstances(t, occurring(100001-n, n), []impl.Term{a}, []impl.Term{listOf(atoms...)})
-		checkInstances(t, spacedOut(7, n), []impl.Term{pair(a, a)}, []impl.Term{listOf(slices.Repeat([]impl.Term{pair(a, a)}, 2*n)...)})
-	}
-	for _, n := range []int{401, 402, 512, 513, 1000, 2499} {
+	for _, n := range []int{0, 1, 2, 9, 10, 63, 64, 65, 399, 400, 401, 402, 512, 513, 800, 801, 1000, 2498, 2499} {
 		soon(t, "one value for many variables", func() {
-			checkNoInstances(t, "more than MaxBindings variables", occurring(0, n), []impl.Term{a})
-			if impl.IsInstance(listOf(slices.Repeat([]impl.Term{a}, n)...), occurring(0, n)) {
-				t.Errorf("a list of %d variables has an instance", n)
+			want := []impl.Term{listOf(slices.Repeat([]impl.Term{a}, n)...)}
+			checkInstances(t, occurring(0, n), []impl.Term{a}, want)
+			checkInstances(t, occurring(100001-n, n), []impl.Term{a}, want)
+			if got := impl.IsInstance(want[0], occurring(0, n)); got != (n <= 400) {
+				t.Errorf("IsInstance of a list of %d symbols and a list of as many variables is %v", n, got)
 			}
+			tree := balanced(2*n+1, empty())
+			checkInstances(t, leaves(tree, variable), []impl.Term{a}, []impl.Term{balanced(2*n+1, a)})
+			checkInstances(t, leaves(tree, func(k int) impl.Term { return variable(100000 - k/2) }), []impl.Term{a}, []impl.Term{balanced(2*n+1, a)})
 		})
+	}
+	// The instance can still be too large.
+	b := term("(b . c)")
+	for _, n := range []int{399, 400, 401, 402, 800, 1000, 1249} {
+		checkInstances(t, occurring(3, n), []impl.Term{b}, []impl.Term{listOf(slices.Repeat([]impl.Term{b}, n)...)})
+	}
+	for _, n := range []int{1250, 1251, 2000, 2499} {
+		checkNoInstances(t, "many variables, and too many nodes", occurring(3, n), []impl.Term{b})
+	}
+	for _, n := range []int{1, 199, 200, 201, 400, 401, 600} {
+		checkInstances(t, spacedOut(7, n), []impl.Term{pair(a, a)}, []impl.Term{listOf(slices.Repeat([]impl.Term{pair(a, a)}, 2*n)...)})
 	}
 }
 
