@@ -136,10 +136,12 @@ func checkNotGeneralized(t *testing.T, name string, l []impl.Term) {
 }
 
 // partsOf returns t and all its parts, from left to right.
-func partsOf(t impl.Term) []impl.Term {
-	l := []impl.Term{t}
+func partsOf(t impl.Term) []impl.Term { return appendParts(nil, t) }
+
+func appendParts(l []impl.Term, t impl.Term) []impl.Term {
+	l = append(l, t)
 	for _, part := range t.Args {
-		l = append(l, partsOf(part)...)
+		l = appendParts(l, part)
 	}
 	return l
 }
